@@ -137,8 +137,19 @@ func wrongSeen() []wrongList[api.Dot] {
 		{"numbers that fall", []api.Dot{two, {Who: 2, N: 1}}, api.ErrClash},
 		{"the last ones fall", append(points(39), api.Dot{Who: 8, N: 3}), api.ErrClash},
 		{"dot that falls", []api.Dot{two, {Who: 2, N: 0}}, api.ErrRange},
-		{"falls, then dot", []api.Dot{two, two, {Who: 9, N: 1}}, api.ErrClash},
+		{"the first ones fall", append([]api.Dot{two}, points(39)...), api.ErrClash},
+		// A dot's own fault, wherever it stands, is told ahead of not rising,
+		// which is a fault of them all.
 		{"dot, then falls", []api.Dot{{Who: 0, N: 1}, two, two}, api.ErrRange},
+		{"twice, then author", []api.Dot{two, two, {Who: 9, N: 1}}, api.ErrRange},
+		{"twice, then number", []api.Dot{two, two, {Who: 2, N: 10000}}, api.ErrRange},
+		{"authors that fall, then author", []api.Dot{two, {Who: 1, N: 2}, {Who: -1, N: 4}}, api.ErrRange},
+		{"numbers that fall, then number", []api.Dot{two, {Who: 2, N: 1}, {Who: 3, N: 0}}, api.ErrRange},
+		{"falls, then a wrong dot at last", append(append([]api.Dot{two}, points(38)...), api.Dot{Who: 8, N: 10000}), api.ErrRange},
+		{"41 dots that fall", append([]api.Dot{two}, points(40)...), api.ErrFull},
+	}
+	for _, d := range wrongDots {
+		lists = append(lists, wrongList[api.Dot]{"twice, then a wrong dot", []api.Dot{two, two, d}, api.ErrRange})
 	}
 	for _, d := range wrongDots {
 		lists = append(lists, wrongList[api.Dot]{"a wrong dot", []api.Dot{d}, api.ErrRange})
