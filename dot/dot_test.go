@@ -449,3 +449,23 @@ func TestNothingHandedInIsWrittenIntoOrShared(t *testing.T) {
 		t.Errorf("what was read before shares memory with %v", two)
 	}
 }
+
+func TestOrderIsByWhoThenN(t *testing.T) {
+	l := []api.Dot{
+		{Who: math.MinInt, N: math.MaxInt}, {Who: 1, N: math.MinInt}, {Who: 1, N: 1}, {Who: 1, N: 2}, {Who: 1, N: 10},
+		{Who: 1, N: 9999}, {Who: 2, N: 1}, {Who: 2, N: 9}, {Who: 8, N: 1}, {Who: math.MaxInt, N: math.MinInt},
+	}
+	for i, a := range l {
+		for k, b := range l {
+			want := 0
+			if i < k {
+				want = -1
+			} else if i > k {
+				want = 1
+			}
+			if got := Order(a, b); got != want {
+				t.Errorf("Order(%v, %v) = %d, want %d", a, b, got, want)
+			}
+		}
+	}
+}

@@ -748,3 +748,26 @@ func TestNothingHandedInIsWrittenIntoOrShared(t *testing.T) {
 		t.Errorf("Unpack = %v, %v", again, err)
 	}
 }
+
+func TestCopySharesNothing(t *testing.T) {
+	for _, o := range rightOps() {
+		if got := Copy(o); !sameOp(got, o) {
+			t.Errorf("Copy(%v) = %v", o, got)
+		}
+	}
+	dots := points(3)
+	for n := range dots {
+		o := changed(join, func(o *api.Op) { o.Seen = dots[:n] })
+		got := Copy(o)
+		seen := append(got.Seen, api.Dot{Who: 7, N: 7})
+		for i := range seen {
+			seen[i] = api.Dot{Who: 8, N: 8}
+		}
+		if !slices.Equal(dots, points(3)) {
+			t.Errorf("%d seen: what was handed in is now %v", n, dots)
+		}
+		if n == 0 && cap(got.Seen) > 0 {
+			t.Errorf("there is room behind an empty list")
+		}
+	}
+}
