@@ -79,8 +79,25 @@ func applied(t *testing.T, ops ...api.Op) *Doc {
 	return d
 }
 
+// wantWould asks ahead of an Apply what it would answer, and that asking changes
+// nothing.
+func wantWould(t *testing.T, d *Doc, o api.Op, want bool, wantErr api.Errno) {
+	t.Helper()
+	ahead, kept := told(d), maps.Clone(d.joined)
+	is, err := d.Would(o)
+	var got api.Errno
+	if is != want || (err != nil) != (wantErr != api.OK) || (err != nil && !errors.As(err, &got)) || got != wantErr {
+		t.Errorf("Would(%v): got %v, %v, want %v, %v", o, is, err, want, wantErr)
+	}
+	wantState(t, d, ahead, fmt.Sprint("after it was asked of ", o))
+	if !reflect.DeepEqual(d.joined, kept) {
+		t.Errorf("after it was asked of %v it keeps %v, not %v", o, d.joined, kept)
+	}
+}
+
 func wantApplied(t *testing.T, d *Doc, o api.Op) {
 	t.Helper()
+	wantWould(t, d, o, true, api.OK)
 	if is, err := d.Apply(o); !is || err != nil {
 		t.Fatalf("Apply(%v): got %v, %v, want true and no error", o, is, err)
 	}
@@ -88,6 +105,7 @@ func wantApplied(t *testing.T, d *Doc, o api.Op) {
 
 func wantKnown(t *testing.T, d *Doc, o api.Op) {
 	t.Helper()
+	wantWould(t, d, o, false, api.OK)
 	ahead := told(d)
 	if is, err := d.Apply(o); is || err != nil {
 		t.Errorf("Apply(%v): got %v, %v, want false and no error", o, is, err)
@@ -97,6 +115,7 @@ func wantKnown(t *testing.T, d *Doc, o api.Op) {
 
 func wantRefused(t *testing.T, d *Doc, o api.Op, want api.Errno) {
 	t.Helper()
+	wantWould(t, d, o, false, want)
 	ahead := told(d)
 	is, err := d.Apply(o)
 	var got api.Errno
@@ -621,6 +640,7 @@ func TestLongPlay(t *testing.T) {
 		for range 250 {
 			o := anyOp(r, m)
 			wantIs, wantErr := m.apply(o)
+			wantWould(t, d, o, wantIs, wantErr)
 			is, err := d.Apply(o)
 			var got api.Errno
 			if err != nil && !errors.As(err, &got) {
