@@ -165,6 +165,9 @@ func wantSlices(t *testing.T, l []api.Leaf, m []api.Mark, want ...string) {
 			t.Errorf("Slice(%v, %v, %d) = %q, %v, want %q", l, m, i, text, err, part)
 		}
 	}
+	if all, err := Slices(l, m); !slices.Equal(all, want) || err != nil {
+		t.Errorf("Slices(%v, %v) = %q, %v, want %q", l, m, all, err, want)
+	}
 	for _, i := range []int{len(want), len(want) + 1, -1, -len(want), math.MinInt, math.MaxInt} {
 		wantNoSlice(t, l, m, i, api.ErrRange)
 	}
@@ -203,6 +206,11 @@ func wantAllRefused(t *testing.T, l []api.Leaf, m []api.Mark, want api.Errno) {
 	wantError(t, err, want, "Stretches", l, m)
 	if len(stretches) != 0 {
 		t.Errorf("Stretches(%v, %v) = %v with an error", l, m, stretches)
+	}
+	parts, err := Slices(l, m)
+	wantError(t, err, want, "Slices", l, m)
+	if len(parts) != 0 {
+		t.Errorf("Slices(%v, %v) = %q with an error", l, m, parts)
 	}
 	for _, n := range []int{0, 1, -1, math.MinInt, math.MaxInt} {
 		wantNotLocated(t, l, m, n, want)
@@ -559,6 +567,7 @@ func callAll(l []api.Leaf, m []api.Mark) {
 	for i := range stretches {
 		stretches[i] = api.Stretch{Place: "over", From: 5555, Long: 5555}
 	}
+	Slices(l, m)
 	for _, n := range []int{-1, 0, 1, 4, 5} {
 		Locate(l, m, n)
 		Slice(l, m, n)

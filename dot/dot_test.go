@@ -469,3 +469,35 @@ func TestOrderIsByWhoThenN(t *testing.T) {
 		}
 	}
 }
+
+func TestNumberOfSoManyDigits(t *testing.T) {
+	for _, c := range []struct {
+		word   string
+		digits int
+		want   int
+		is     bool
+	}{
+		{"0", 4, 0, true},
+		{"7", 4, 7, true},
+		{"10", 4, 10, true},
+		{"9999", 4, 9999, true},
+		{"10000", 4, 0, false},
+		{"10000", 5, 10000, true},
+		{"0", 1, 0, true},
+		{"10", 1, 0, false},
+		{"0", 0, 0, false},
+		{"", 4, 0, false},
+		{"00", 4, 0, false},
+		{"01", 4, 0, false},
+		{"-0", 4, 0, false},
+		{"-1", 4, 0, false},
+		{"+1", 4, 0, false},
+		{" 1", 4, 0, false},
+		{"1_0", 4, 0, false},
+		{"1a", 4, 0, false},
+	} {
+		if n, is := Number(c.word, c.digits); n != c.want || is != c.is {
+			t.Errorf("Number(%q, %d) = %d, %v, want %d, %v", c.word, c.digits, n, is, c.want, c.is)
+		}
+	}
+}
